@@ -146,12 +146,15 @@ func TestNames(t *testing.T) {
 	}
 }
 
-// checkName reports an error if a type or an object is not permitted to have the name s exactly if it is one.
+// checkName reports an error if IsName does not tell whether s is a name, or if a type or an object is not permitted to have the name s exactly if it is one.
 func checkName(t *testing.T, s string, is bool) {
 	t.Helper()
 	var wantType, wantObject api.Fault
 	if !is {
 		wantType, wantObject = fault(api.ErrName, 0), fault(api.ErrName, -10)
+	}
+	if got := types.IsName(s); got != is {
+		t.Errorf("IsName(%q) = %v", s, got)
 	}
 	if got := types.Validate([]api.Type{ty(s, -1)}); got != wantType {
 		t.Errorf("type %q: got %v, want %v", s, got, wantType)
