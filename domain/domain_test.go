@@ -385,6 +385,42 @@ func TestAtomCodes(t *testing.T) {
 	}
 }
 
+// TestExportedCodes covers the codes of atoms and lists of types outside of domains, with more parameters than a schema can have, and for domains with numbers that are invalid.
+func TestExportedCodes(t *testing.T) {
+	many := []int{truck, place, city, -1, city, truck}
+	for _, c := range atomCases {
+		if got := domain.AtomCode(delivery(), many[:3], c.a); got != c.schema {
+			t.Errorf("%v with three parameters: got %d, want %d", c.a, got, c.schema)
+		}
+		if got := domain.AtomCode(delivery(), nil, c.a); got != c.ground {
+			t.Errorf("%v without parameters: got %d, want %d", c.a, got, c.ground)
+		}
+	}
+	for a, want := range map[int]int{-4: api.ErrWrongType, -5: api.OK, -6: api.ErrWrongType, -7: api.ErrRange} {
+		if got := domain.AtomCode(delivery(), many, at(road, rome, a)); got != want {
+			t.Errorf("argument %d of six parameters: got %d, want %d", a, got, want)
+		}
+	}
+	for _, far := range farNumbers {
+		d := delivery()
+		d.Objects[key].Type, d.Predicates[in].Types[0] = far, far
+		if got := domain.AtomCode(d, []int{far}, at(in, parameter0, rome)); got != api.ErrWrongType {
+			t.Errorf("type %d: got %d", far, got)
+		}
+		if got := domain.AtomCode(d, nil, at(seen, key)); got != api.ErrWrongType {
+			t.Errorf("object of the type %d: got %d", far, got)
+		}
+		if got := domain.TypesCode(d, []int{-1, city, far}); got != api.ErrRange {
+			t.Errorf("list with %d: got %d", far, got)
+		}
+	}
+	for n, want := range []int{api.OK, api.OK, api.OK, api.OK, api.ErrTooMany, api.ErrTooMany} {
+		if got := domain.TypesCode(delivery(), repeat(truck, n)); got != want {
+			t.Errorf("list of %d types: got %d, want %d", n, got, want)
+		}
+	}
+}
+
 // TestArguments covers arguments of each type where each type is required: x0 to x4 are objects of the types object, a, b, c and d, of which b is below a, and c below b.
 func TestArguments(t *testing.T) {
 	types := []api.Type{ty("a", -1), ty("b", 0), ty("c", 1), ty("d", -1)}

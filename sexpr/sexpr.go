@@ -12,7 +12,8 @@ func Validate(l []api.Sexpr) api.Fault {
 	if len(l) == 0 || len(l) > api.MaxNodes {
 		return api.Fault{Code: api.ErrTooMany, Index: -1}
 	}
-	starts := make([]int, len(l))
+	subtree := Subtrees()
+	start := 0
 	depths := make([]int, len(l))
 	for i, n := range l {
 		if n.Symbol != "" && !isSymbol(n.Symbol) {
@@ -21,11 +22,10 @@ func Validate(l []api.Sexpr) api.Fault {
 		if n.Symbol != "" && len(n.Children) > 0 {
 			return api.Fault{Code: api.ErrMalformed, Index: i}
 		}
-		start, ok := subtreeStart(starts[:i], n.Children)
-		if !ok {
+		var ok bool
+		if start, ok = subtree(n.Children); !ok {
 			return api.Fault{Code: api.ErrMalformed, Index: i}
 		}
-		starts[i] = start
 		depths[i] = 1
 		for _, c := range n.Children {
 			depths[i] = max(depths[i], depths[c]+1)
@@ -34,10 +34,20 @@ func Validate(l []api.Sexpr) api.Fault {
 			return api.Fault{Code: api.ErrTooLarge, Index: i}
 		}
 	}
-	if starts[len(l)-1] != 0 {
+	if start != 0 {
 		return api.Fault{Code: api.ErrMalformed, Index: -1}
 	}
 	return api.Fault{}
+}
+
+// Subtrees returns a function for the nodes of a tree in postorder. It is called with the children of each node in turn, and returns the first node of the subtree of this node. It reports false if the children are not the roots of consecutive subtrees that end directly before the node; from then on its results have no meaning.
+func Subtrees() func(children []int) (int, bool) {
+	var starts []int
+	return func(children []int) (int, bool) {
+		start, ok := subtreeStart(starts, children)
+		starts = append(starts, start)
+		return start, ok
+	}
 }
 
 // subtreeStart returns the first node of the subtree of a node with the given children; starts are those of all nodes before it. It reports false if the children are not the roots of consecutive subtrees that end directly before the node.

@@ -128,6 +128,30 @@ func TestValidate(t *testing.T) {
 	}
 }
 
+// TestSubtrees covers the first nodes of subtrees, and that whatever follows a wrong node does not panic.
+func TestSubtrees(t *testing.T) {
+	subtree := sexpr.Subtrees()
+	for i, n := range []struct {
+		children []int
+		want     int
+	}{{nil, 0}, {[]int{0}, 0}, {[]int{}, 2}, {nil, 3}, {[]int{2, 3}, 2}, {[]int{4}, 2}, {[]int{1, 5}, 0}, {nil, 7}} {
+		if got, ok := subtree(n.children); got != n.want || !ok {
+			t.Errorf("node %d: got %d, %v, want %d", i, got, ok, n.want)
+		}
+	}
+	for _, wrong := range [][]int{{0}, {7, 7}, {8}, {-1}, {1 << 62}, {5, 6, 7}} {
+		other := sexpr.Subtrees()
+		other(nil)
+		if first, ok := other(wrong); ok != (wrong[0] == 0) || first != 0 {
+			t.Errorf("%v: got %d, %v", wrong, first, ok)
+		}
+		for i := range 9 {
+			other([]int{i})
+			other([]int{i, i + 1})
+		}
+	}
+}
+
 // TestSymbolBytes covers the bytes of symbols for all three functions.
 func TestSymbolBytes(t *testing.T) {
 	for b := range 256 {
