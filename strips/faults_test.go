@@ -166,3 +166,29 @@ func TestLengthOfPlans(t *testing.T) {
 		}
 	}
 }
+
+// TestPlanFault covers the errors of Z9 for plans of tasks of any kind.
+func TestPlanFault(t *testing.T) {
+	for _, c := range []struct {
+		name      string
+		operators int
+		plan      []int
+		want      api.Fault
+	}{
+		{"empty plan", 3, nil, fault(0, 0)},
+		{"empty plan without operators", 0, nil, fault(0, 0)},
+		{"all operators", 3, ints(2, 0, 1, 1), fault(0, 0)},
+		{"step without operators", 0, ints(0), fault(api.ErrRange, -6)},
+		{"step of a negative number of operators", -1, ints(-1), fault(api.ErrRange, -6)},
+		{"first step too large", 3, ints(3, 0), fault(api.ErrRange, -6)},
+		{"last step negative", 3, ints(0, -1), fault(api.ErrRange, -6)},
+		{"as many steps as permitted", 3, repeat(2, api.MaxPlan), fault(0, 0)},
+		{"the last one of them too large", 3, append(repeat(2, api.MaxPlan-1), 3), fault(api.ErrRange, -6)},
+		{"one step too many", 3, repeat(2, api.MaxPlan+1), fault(api.ErrTooMany, -5)},
+		{"one step too many, and none exists", 0, repeat(2, api.MaxPlan+1), fault(api.ErrTooMany, -5)},
+	} {
+		if got := strips.PlanFault(c.operators, c.plan); got != c.want {
+			t.Errorf("%s: got %v, want %v", c.name, got, c.want)
+		}
+	}
+}
